@@ -6,7 +6,6 @@ import (
 
 	"tussock/api"
 	"tussock/disk"
-	"tussock/table"
 )
 
 // P13.7: the power gone at each operation of a Commit, in each state, and each crash: the table has what it had, or what it was to have, wholly, and goes on, for good.
@@ -215,7 +214,7 @@ func TestCrashesBesideOthers(t *testing.T) {
 	}
 }
 
-// P13.4: a table behind an ErrDiskOff is not to be used any more; what is asked of it still ends, and does not panic.
+// P13.4: a table behind an ErrDiskOff is not to be used any more; what is asked of it still ends, and does not panic, and what lies there stays a table.
 func TestUsedBehindPowerGone(t *testing.T) {
 	for _, s := range states() {
 		for _, c := range calls() {
@@ -229,9 +228,7 @@ func TestUsedBehindPowerGone(t *testing.T) {
 					x.All("")
 					x.Get("a")
 				}
-				if _, e := table.Open(d, "t"); e != api.OK && e != api.ErrTableCorrupt {
-					t.Errorf("Open: %d", e)
-				}
+				open(t, d)
 			}
 		}
 	}
